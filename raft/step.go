@@ -1,8 +1,6 @@
 package raft
 
 import (
-	"slices"
-
 	"muniment/api"
 )
 
@@ -104,7 +102,6 @@ func (n *Node) together(m api.RaftMsg) bool {
 	if !m.Done {
 		return false
 	}
-	m.Members = slices.Clone(m.Members)
 	n.lay(m, n.parts.s)
 	n.commit = m.Index
 	n.parts = pieces{}
